@@ -73,6 +73,12 @@ func wantAlone(t *testing.T, want bool, n impl.Node) {
 	if impl.NodeOk(n) != want {
 		t.Errorf("NodeOk(%+v) = %v", n, !want)
 	}
+	// What is not right is not written, by whatever reason.
+	if want {
+		wantWrites(t, n, plainWritten(n))
+	} else {
+		wantWrites(t, n, "")
+	}
 }
 
 // wantNode asks for the node as it is, and below others, where it must be right, too.

@@ -20,6 +20,9 @@ func wantRead(t *testing.T, s string, h impl.Head, kids ...impl.Node) {
 		t.Errorf("ReadTree(%q) = %+v, %+v, %v; want %+v, %+v, true", s, n, gotHead, ok, doc(kids...), h)
 	}
 	wantTree(t, true, n)
+	if ok {
+		wantBack(t, n)
+	}
 }
 
 // wantTreeOf is of a text without a head.
@@ -952,6 +955,9 @@ func checkTree(t *testing.T, s string) bool {
 	}
 	if ok && !impl.TreeOk(n) {
 		t.Fatalf("ReadTree(%q) = %+v, which is no right tree", s, n)
+	}
+	if ok {
+		wantBack(t, n)
 	}
 	if got, want := impl.IdsOf(n, h), plainIds(n, h); !slices.Equal(got, want) {
 		t.Fatalf("IdsOf the tree of %q = %+v; want %+v", s, got, want)
